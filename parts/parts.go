@@ -1,4 +1,5 @@
-package fix
+// Package parts stands between the layers 13 and 14, for those that ask clauses for heads. A clause can have far more of them than there may be facts: so one that seems to is asked part by part, for as long as more is wanted.
+package parts
 
 import (
 	"iter"
@@ -8,24 +9,33 @@ import (
 	"bailey/atoms"
 )
 
-// enough is how many heads are told in one list. A clause can have far more of them than there may be facts: so one that seems to is asked part by part, until there are too many.
+// Asking is a way to ask a clause for heads.
+type Asking func(c api.Clause) []api.Fact
+
+// enough is how many heads are told in one list.
 const enough = 1 << 18
 
-// parts tells, list by list, all heads of a clause that can be fresh.
-func (g *growth) parts(c api.Clause) iter.Seq[[]api.Fact] {
-	return func(yield func([]api.Fact) bool) { g.tell(c, g.heads, yield) }
+// asked is how clauses are asked.
+type asked struct {
+	facts int    // so many are there that a literal can become
+	every Asking // for all heads
+}
+
+// Of tells, list by list, the heads for which a clause is asked. A part of it is what is left of it by a fact that one of its literals becomes: that is asked for every head.
+func Of(c api.Clause, facts int, ask, every Asking) iter.Seq[[]api.Fact] {
+	return func(yield func([]api.Fact) bool) { asked{facts, every}.tell(c, ask, yield) }
 }
 
 // tell asks a clause at once, if it is small; else, part by part, what is left of it by each fact that one of its literals becomes. And is more wanted?
-func (g *growth) tell(c api.Clause, ask asking, yield func([]api.Fact) bool) bool {
+func (a asked) tell(c api.Clause, ask Asking, yield func([]api.Fact) bool) bool {
 	vars := atoms.Vars(c.Head)
-	if g.small(c, vars, ask) {
+	if a.small(c, vars, ask) {
 		return yield(ask(c))
 	}
 	at := slices.IndexFunc(c.Body, func(b api.Lit) bool { return !b.Not && has(b.A, vars[0]) })
 	one, left := c.Body[at], api.Clause{Head: c.Head, Body: slices.Delete(slices.Clone(c.Body), at, at+1)}
-	for _, f := range g.becomes(one, left) {
-		if !g.tell(filled(left, one.A, f), g.every, yield) {
+	for _, f := range a.becomes(one, left) {
+		if !a.tell(filled(left, one.A, f), a.every, yield) {
 			return false
 		}
 	}
@@ -33,16 +43,16 @@ func (g *growth) tell(c api.Clause, ask asking, yield func([]api.Fact) bool) boo
 }
 
 // becomes: the facts that a literal becomes, as far as what is left of its clause tells them apart: no part is asked twice.
-func (g *growth) becomes(one api.Lit, left api.Clause) []api.Fact {
+func (a asked) becomes(one api.Lit, left api.Clause) []api.Fact {
 	stands := func(v uint32) bool {
 		return has(left.Head, v) || slices.ContainsFunc(left.Body, func(b api.Lit) bool { return has(b.A, v) })
 	}
-	return g.every(api.Clause{Head: only(one.A, stands), Body: []api.Lit{one}})
+	return a.every(api.Clause{Head: only(one.A, stands), Body: []api.Lit{one}})
 }
 
 // small: has a clause no more heads than enough? There are no more than choices of a fact for each literal, nor of a symbol for each of the head's variables. To count symbols takes about as long as to ask for the heads; so that is left for where it must be.
-func (g *growth) small(c api.Clause, vars []uint32, ask asking) bool {
-	facts := slices.Repeat([]int{g.all.Len()}, min(len(vars), held(c)))
+func (a asked) small(c api.Clause, vars []uint32, ask Asking) bool {
+	facts := slices.Repeat([]int{a.facts}, min(len(vars), held(c)))
 	return len(vars) < 2 || within(slices.Values(facts)) || within(symbols(c, vars, ask))
 }
 
@@ -58,7 +68,7 @@ func within(factors iter.Seq[int]) bool {
 }
 
 // symbols: how many can each variable of a clause's head be?
-func symbols(c api.Clause, vars []uint32, ask asking) iter.Seq[int] {
+func symbols(c api.Clause, vars []uint32, ask Asking) iter.Seq[int] {
 	return func(yield func(int) bool) {
 		for _, v := range vars {
 			head := only(c.Head, func(n uint32) bool { return n == v })
